@@ -377,6 +377,22 @@ func TestSplitterSeesNothingOfWhatIsWritten(t *testing.T) {
 	is(t, "an earlier Rest", string(rest), "12:bc")
 }
 
+func TestAnAnswerStaysAsItWas(t *testing.T) {
+	s := wire.New()
+	first := s.Feed([]byte("1:a\nx\n3:bcd\n4:ef"))
+	left := s.Rest()
+	second := s.Feed([]byte("gh\n0:\n1:i\ny"))
+	is(t, "the second answer", told(second, s.Rest()), `"efgh","","i",bad,rest ""`)
+	is(t, "the first answer", told(first, left), `"a",bad,"bcd",rest "4:ef"`)
+	room := first[:cap(first)]
+	for i := range room {
+		room[i] = wire.Item{Bad: true, B: []byte("#")}
+	}
+	third := s.Feed([]byte("\n2:jk\n3:lmn\n"))
+	is(t, "the second answer", told(second, nil), `"efgh","","i",bad,rest ""`)
+	is(t, "the third answer", told(third, s.Rest()), `"jk","lmn",rest ""`)
+}
+
 // P104: laws.
 
 func TestItemsAreTheSameHoweverCut(t *testing.T) {
